@@ -329,12 +329,42 @@ func TestRecOfHasALimit(t *testing.T) {
 		checkRecOf(t, bytesLong(1999), fs)
 		checkRecOf(t, bytesLong(2000), fs)
 		checkRecOf(t, strings.Repeat("a b,", 500), fs)
-		for _, size := range []int{2001, 2002, 4000, 100000} {
-			for _, unit := range []string{"a", " ", ","} {
-				if r, ok := impl.RecOf(strings.Repeat(unit, size), fs); ok || !sameRec(r, impl.Rec{}) {
-					t.Errorf("%d of %q by %.40q: %v, %d bytes, %d fields", size, unit, fs, ok, len(r.Line), len(r.Fields))
-				}
+		for _, size := range []int{2001, 2002, 4000, 20000} {
+			for _, unit := range []string{"a", " ", ",", "b"} {
+				checkLongRecOf(t, strings.Repeat(unit, size), fs)
 			}
+		}
+		checkLongRecOf(t, strings.Repeat("a b,", 500)+"a", fs)
+		checkLongRecOf(t, strings.Repeat("b a,", 5000), fs)
+	}
+}
+
+// checkLongRecOf holds the record of a line of more than MaxLine bytes against its
+// fields: it is told like another one, with false beside it.
+func checkLongRecOf(t *testing.T, s string, fs string) {
+	t.Helper()
+	got, ok := impl.RecOf(s, fs)
+	want := rec(s, impl.SplitLine(s, fs)...)
+	want.Fields = want.Fields[:min(len(want.Fields), impl.MaxFields)]
+	if ok || impl.RecOk(got) || !sameRec(got, want) {
+		t.Errorf("RecOf(%d bytes %.40q, %.40q) = %d bytes, %.200q, %v", len(s), s, fs, len(got.Line), got.Fields, ok)
+	}
+}
+
+func TestRecOfALongLine(t *testing.T) {
+	long := bytesLong(2001)
+	cases := []struct {
+		s, fs string
+		want  []string
+	}{
+		{strings.Repeat("x ", 1000) + "y", " ", slices.Repeat([]string{"x"}, 60)}, {strings.Repeat(" ", 2001), " ", nil}, {"x" + strings.Repeat(" ", 2000), " ", []string{"x"}}, {strings.Repeat(" ", 2000) + "x", " ", []string{"x"}}, {"x " + bytesLong(1999), " ", []string{"x", bytesLong(1999)}},
+		{long, ",", []string{long}}, {long, " ", []string{long}}, {long, "", slices.Repeat([]string{"a"}, 60)}, {long, "a", make([]string, 60)}, {long, "((", []string{long}}, {long, "x*", []string{long}}, {long, "a*", []string{"", ""}}, {long, "a?", make([]string, 60)}, {long + ",", ",", []string{long, ""}}, {"," + long, ",", []string{"", long}}, {long + "," + long, ",", []string{long, long}}, {long + "ab" + long, "ab|,", []string{bytesLong(2001), bytesLong(2001)}}, {"b12b3" + long, "[0-9]+", []string{"b", "b", long}},
+		{strings.Repeat(",", 58) + long, ",", append(make([]string, 58), long)}, {strings.Repeat(",", 59) + long, ",", append(make([]string, 59), long)}, {strings.Repeat(",", 60) + long, ",", make([]string, 60)},
+	}
+	for _, c := range cases {
+		got, ok := impl.RecOf(c.s, c.fs)
+		if ok || impl.RecOk(got) || !sameRec(got, rec(c.s, c.want...)) {
+			t.Errorf("RecOf(%d bytes %.40q, %q) = %d bytes, %.200q, %v", len(c.s), c.s, c.fs, len(got.Line), got.Fields, ok)
 		}
 	}
 }
@@ -663,6 +693,8 @@ func recordCalls(r impl.Rec) []impl.Rec {
 	keep := func(r impl.Rec, ok bool) { list = append(list, r) }
 	keep(impl.RecOf("x y", " "))
 	keep(impl.RecOf(bytesLong(2000), ""))
+	keep(impl.RecOf(bytesLong(2001), ""))
+	keep(impl.RecOf(bytesLong(2001), ","))
 	for _, i := range []int{-1, 0, 1, 2, 3, 4, 60, 61} {
 		keep(impl.SetField(r, i, "x", ","))
 		keep(impl.SetCount(r, i, ","))
@@ -711,12 +743,14 @@ func TestRecordsAreNewAndNotWrittenInto(t *testing.T) {
 // to, and neither gets what the other one has.
 func TestFieldsHaveNoSpareRoom(t *testing.T) {
 	for _, fs := range []string{" ", "", ",", "[ ,]", "(("} {
-		r := recBy(t, "a b,c", fs)
-		first, second := r, r
-		first.Fields = append(first.Fields, "x")
-		second.Fields = append(second.Fields, "y")
-		if first.Fields[len(r.Fields)] != "x" || second.Fields[len(r.Fields)] != "y" {
-			t.Errorf("by %q: %q, %q", fs, first, second)
+		for _, s := range []string{"a b,c", "a b,c" + bytesLong(2000)} {
+			r, _ := impl.RecOf(s, fs)
+			first, second := r, r
+			first.Fields = append(first.Fields, "x")
+			second.Fields = append(second.Fields, "y")
+			if first.Fields[len(r.Fields)] != "x" || second.Fields[len(r.Fields)] != "y" {
+				t.Errorf("%.40q by %q: %.300q, %.300q", s, fs, first, second)
+			}
 		}
 	}
 }
@@ -727,6 +761,16 @@ func TestRecordsOfEverySize(t *testing.T) {
 	big := bytesLong(1 << 26)
 	if impl.RecOk(rec(big, big)) || impl.Field(rec(big, big), 1) != big || len(impl.SplitLine(big, ",")) != 1 {
 		t.Error("a line of many bytes")
+	}
+	if got, ok := impl.RecOf(big, ","); ok || !sameRec(got, rec(big, big)) {
+		t.Error("the record of many bytes")
+	}
+	if got, ok := impl.RecOf(big, ""); ok || !sameRec(got, rec(big, slices.Repeat([]string{"a"}, 60)...)) {
+		t.Error("the first ones of many fields")
+	}
+	// This expression would be tried to the end of the line at each place.
+	if got, ok := impl.SetLine(rec("a", "a"), big, "(.*x)?"); ok || !sameRec(got, rec("a", "a")) {
+		t.Error("no line of many bytes is cut")
 	}
 	r := rec(big, slices.Repeat([]string{big}, 60)...)
 	got, ok := impl.SetField(r, 1, "x", big)
