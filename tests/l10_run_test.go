@@ -695,11 +695,13 @@ func TestRunOfShownPrograms(t *testing.T) {
 	}
 }
 
-// Promise 17: nothing is written into, nothing is kept, and answers share nothing.
-func TestRunWritesIntoNothing(t *testing.T) {
-	from := rand.New(rand.NewSource(107))
-	list := [][]impl.Rule{programOfAll(), mustProg(t, "{ a[$1] = $2; $1 = \"q\"; NF = 9; sub(/a/, \"b\", $2); split($0, c); delete a[1]; $0 = \"z\" } END { for (k in a) { delete a[k]; print k } }")}
-	for _, p := range madePrograms(108, 200) {
+// roomyPrograms tells programs of each kind of node, each list of kids in which has
+// a node that stands behind it.
+func roomyPrograms(t *testing.T, seed int64, s string) [][]impl.Rule {
+	t.Helper()
+	from := rand.New(rand.NewSource(seed))
+	list := [][]impl.Rule{programOfAll(), mustProg(t, s)}
+	for _, p := range madePrograms(seed+1, 200) {
 		list = append(list, liven(from, p))
 	}
 	for _, p := range list {
@@ -707,6 +709,27 @@ func TestRunWritesIntoNothing(t *testing.T) {
 			giveRoom(&p[i].Pat)
 			giveRoom(&p[i].Body)
 		}
+	}
+	return list
+}
+
+// checkNotWritten asks whether one of these is what it was, with what stands behind
+// its lists.
+func checkNotWritten(t *testing.T, p []impl.Rule, was []impl.Rule) {
+	t.Helper()
+	if !sameRules(p, was) {
+		t.Errorf("%q was written into", impl.ShowProg(was))
+	}
+	for _, n := range nodesOf(p) {
+		if !sameNode(n.Kids[:len(n.Kids)+1][len(n.Kids)], eVar("behind")) {
+			t.Errorf("%q: the room behind was written into", impl.ShowProg(was))
+		}
+	}
+}
+
+// Promise 17: nothing is written into, nothing is kept, and answers share nothing.
+func TestRunWritesIntoNothing(t *testing.T) {
+	for _, p := range roomyPrograms(t, 107, "{ a[$1] = $2; $1 = \"q\"; NF = 9; sub(/a/, \"b\", $2); split($0, c); delete a[1]; $0 = \"z\" } END { for (k in a) { delete a[k]; print k } }") {
 		lines := append(make([]string, 0, 8), "a b", "c 1 2", "")
 		room := lines[:cap(lines)]
 		was, before := copyRules(p), slices.Clone(room)
@@ -719,15 +742,9 @@ func TestRunWritesIntoNothing(t *testing.T) {
 		if impl.Run(p, lines, 400) != first || !slices.Equal(impl.Trace(p, lines, 400), trace) {
 			t.Errorf("%q: something is kept", impl.ShowProg(p))
 		}
-		if !sameRules(p, was) || !slices.Equal(room, before) {
-			t.Errorf("%q was written into", impl.ShowProg(was))
-		}
-		for i := range p {
-			for _, n := range []impl.Node{p[i].Pat, p[i].Body} {
-				if n.Kind == impl.SBlock && !sameNode(n.Kids[:len(n.Kids)+1][len(n.Kids)], eVar("behind")) {
-					t.Errorf("%q: the room behind was written into", impl.ShowProg(was))
-				}
-			}
+		checkNotWritten(t, p, was)
+		if !slices.Equal(room, before) {
+			t.Errorf("%q: lines were written into", impl.ShowProg(p))
 		}
 	}
 }
