@@ -9,14 +9,15 @@ import (
 )
 
 // meaning tells a run by the words of chapter 10, one by one. What ends it, or what
-// is run of rules, is told by a panic: a stop with its code, or a leave.
+// is run of rules, is told by a panic: a stop with its code, or a leave. rule runs
+// one rule, by its number.
 type meaning struct {
 	fuel   int
 	out    string
 	rec    impl.Rec
 	vars   map[string]impl.Val
 	arrays map[string][]cell
-	begun  []int
+	rule   func(int)
 }
 
 type cell struct {
@@ -28,15 +29,40 @@ type stop int
 
 type leave string
 
+func newMeaning(fuel int) *meaning {
+	return &meaning{fuel: fuel, vars: map[string]impl.Val{"FS": str(" "), "OFS": str(" "), "ORS": str("\n"), "NR": num(0)}, arrays: map[string][]cell{}}
+}
+
+// isRun tells whether there is a run of these at all.
+func isRun(p []impl.Rule, lines []string, fuel int) bool {
+	bad := func(s string) bool { return len(s) > 2000 || strings.Contains(s, "\n") }
+	return impl.ProgOk(p) && len(lines) <= 1000 && !slices.ContainsFunc(lines, bad) && fuel >= 0 && fuel <= 100000
+}
+
 // wantedRun tells what Run and Trace tell.
 func wantedRun(p []impl.Rule, lines []string, fuel int) (impl.Result, []int) {
-	m := &meaning{fuel: fuel, vars: map[string]impl.Val{"FS": str(" "), "OFS": str(" "), "ORS": str("\n"), "NR": num(0)}, arrays: map[string][]cell{}, begun: make([]int, len(p))}
-	bad := func(s string) bool { return len(s) > 2000 || strings.Contains(s, "\n") }
-	if !impl.ProgOk(p) || len(lines) > 1000 || slices.ContainsFunc(lines, bad) || fuel < 0 || fuel > 100000 {
-		return impl.Result{Code: impl.RunNone}, m.begun
+	r, begun, _ := wantedFuel(p, lines, fuel)
+	return r, begun
+}
+
+// wantedFuel tells how much fuel the run takes, too.
+func wantedFuel(p []impl.Rule, lines []string, fuel int) (impl.Result, []int, int) {
+	m, begun := newMeaning(fuel), make([]int, len(p))
+	if !isRun(p, lines, fuel) {
+		return impl.Result{Code: impl.RunNone}, begun, 0
+	}
+	m.rule = func(i int) {
+		if p[i].When == impl.WPat && !impl.Truth(m.exp(p[i].Pat)) {
+			return
+		}
+		m.burn()
+		begun[i]++
+		for _, kid := range p[i].Body.Kids {
+			m.do(kid)
+		}
 	}
 	code := m.whole(p, lines)
-	return impl.Result{Code: code, Out: m.out}, m.begun
+	return impl.Result{Code: code, Out: m.out}, begun, fuel - m.fuel
 }
 
 func (m *meaning) whole(p []impl.Rule, lines []string) (code int) {
@@ -70,13 +96,8 @@ func (m *meaning) some(p []impl.Rule, whens ...int) (left leave) {
 		}
 	}()
 	for i, rule := range p {
-		if !slices.Contains(whens, rule.When) || rule.When == impl.WPat && !impl.Truth(m.exp(rule.Pat)) {
-			continue
-		}
-		m.burn()
-		m.begun[i]++
-		for _, kid := range rule.Body.Kids {
-			m.do(kid)
+		if slices.Contains(whens, rule.When) {
+			m.rule(i)
 		}
 	}
 	return ""
@@ -117,7 +138,7 @@ func (m *meaning) made(s string) impl.Val {
 
 func truthVal(is bool) impl.Val { return map[bool]impl.Val{false: num(0), true: num(impl.One)}[is] }
 
-func countOf(n int) impl.Val { return num(n * impl.One) }
+func (m *meaning) count(n int) impl.Val { return m.number(n*impl.One, n <= 1000000) }
 
 func wholeNum(v impl.Val) int { return impl.Whole(impl.NumOf(v)) / impl.One }
 
@@ -200,7 +221,7 @@ func (m *meaning) place(n impl.Node) (func() impl.Val, func(impl.Val)) {
 		return m.fieldPlace(wholeNum(m.exp(n.Kids[0])))
 	}
 	if n.Text == "NF" {
-		return func() impl.Val { return countOf(len(m.rec.Fields)) }, func(v impl.Val) { m.record(impl.SetCount(m.rec, wholeNum(v), m.text("OFS"))) }
+		return func() impl.Val { return m.count(len(m.rec.Fields)) }, func(v impl.Val) { m.record(impl.SetCount(m.rec, wholeNum(v), m.text("OFS"))) }
 	}
 	return func() impl.Val { return m.vars[n.Text] }, func(v impl.Val) { m.vars[n.Text] = v }
 }
@@ -303,9 +324,9 @@ func (m *meaning) call(name string, kids []impl.Node) impl.Val {
 	switch name {
 	case "length":
 		if len(kids) == 0 {
-			return countOf(len(m.rec.Line))
+			return m.count(len(m.rec.Line))
 		}
-		return countOf(len(impl.StrOf(m.exp(kids[0]))))
+		return m.count(len(impl.StrOf(m.exp(kids[0]))))
 	case "substr":
 		s, from, many := impl.StrOf(m.exp(kids[0])), wholeNum(m.exp(kids[1])), math.MaxInt
 		if len(kids) == 3 {
@@ -314,7 +335,7 @@ func (m *meaning) call(name string, kids []impl.Node) impl.Val {
 		return m.made(impl.Substr(s, from, many))
 	case "index":
 		s, of := impl.StrOf(m.exp(kids[0])), impl.StrOf(m.exp(kids[1]))
-		return countOf(impl.IndexOf(s, of))
+		return m.count(impl.IndexOf(s, of))
 	case "tolower":
 		return m.made(impl.Lower(impl.StrOf(m.exp(kids[0]))))
 	case "toupper":
@@ -328,9 +349,9 @@ func (m *meaning) call(name string, kids []impl.Node) impl.Val {
 	case "match":
 		s, wanted := impl.StrOf(m.exp(kids[0])), m.reText(kids[1])
 		at, end := impl.FindRe(m.re(wanted), s, 0)
-		m.vars["RSTART"], m.vars["RLENGTH"] = countOf(at+1), countOf(end-at)
+		m.vars["RSTART"], m.vars["RLENGTH"] = m.count(at+1), m.count(end-at)
 		if at < 0 {
-			m.vars["RLENGTH"] = countOf(-1)
+			m.vars["RLENGTH"] = m.count(-1)
 		}
 		return m.vars["RSTART"]
 	}
@@ -349,9 +370,9 @@ func (m *meaning) split(kids []impl.Node) impl.Val {
 	name := kids[1].Text
 	m.arrays[name] = nil
 	for i, field := range list {
-		m.element(name, impl.DecText(i+1)).val = impl.FromText(field)
+		m.element(name, impl.DecText(i+1)).val = impl.FromText(m.made(field).S)
 	}
-	return countOf(len(list))
+	return m.count(len(list))
 }
 
 func (m *meaning) sub(all bool, kids []impl.Node) impl.Val {
@@ -366,5 +387,5 @@ func (m *meaning) sub(all bool, kids []impl.Node) impl.Val {
 	if many > 0 {
 		give(str(s))
 	}
-	return countOf(many)
+	return m.count(many)
 }

@@ -65,12 +65,16 @@ func checkFuels(t *testing.T, p []impl.Rule, lines []string, most int) int {
 	return most
 }
 
-// checkEnd holds what a program puts out, and its code, against what is told here.
+// checkEnd holds what a program puts out, and its code, against what is told here,
+// and so what the machine makes of it.
 func checkEnd(t *testing.T, s string, code int, out string, lines ...string) {
 	t.Helper()
 	p := mustProg(t, s)
 	if r := impl.Run(p, lines, impl.MaxFuel); r.Code != code || r.Out != out {
 		t.Errorf("Run of %q = %d %.300q, not %d %.300q", s, r.Code, r.Out, code, out)
+	}
+	if r := impl.RunCode(p, lines, impl.MaxFuel); r.Code != code || r.Out != out {
+		t.Errorf("RunCode of %q = %d %.300q, not %d %.300q", s, r.Code, r.Out, code, out)
 	}
 	checkRun(t, p, lines, impl.MaxFuel)
 	checkFuels(t, p, lines, 120)
@@ -117,7 +121,8 @@ func TestCodeName(t *testing.T) {
 	}
 }
 
-// checkNone asks for what is no run: it puts out nothing, and begins no rule.
+// checkNone asks for what is no run: it puts out nothing, begins no rule, and takes
+// no step.
 func checkNone(t *testing.T, p []impl.Rule, lines []string, fuel int) {
 	t.Helper()
 	if r := impl.Run(p, lines, fuel); r != (impl.Result{Code: impl.RunNone}) {
@@ -126,6 +131,17 @@ func checkNone(t *testing.T, p []impl.Rule, lines []string, fuel int) {
 	if trace := impl.Trace(p, lines, fuel); !slices.Equal(trace, make([]int, len(p))) {
 		t.Errorf("%d rules, %d lines, fuel %d: %v", len(p), len(lines), fuel, trace)
 	}
+	if r := impl.RunCode(p, lines, fuel); r != (impl.Result{Code: impl.RunNone}) {
+		t.Errorf("RunCode, %d rules, %d lines, fuel %d: %d %.60q", len(p), len(lines), fuel, r.Code, r.Out)
+	}
+	if steps := impl.Steps(p, lines, fuel); steps != 0 {
+		t.Errorf("%d rules, %d lines, fuel %d: %d steps", len(p), len(lines), fuel, steps)
+	}
+}
+
+// goodLines tells limits that are met exactly.
+func goodLines() [][]string {
+	return [][]string{nil, {}, {""}, {bytesLong(2000)}, {"\x00\xff\r\t"}, make([]string, 1000)}
 }
 
 func TestRunNone(t *testing.T) {
@@ -145,13 +161,13 @@ func TestRunNone(t *testing.T) {
 	}
 	checkNone(t, nil, []string{"\n"}, -1)
 	// Limits that are met exactly.
-	for _, good := range [][]string{nil, {}, {""}, {bytesLong(2000)}, {"\x00\xff\r\t"}, make([]string, 1000)} {
+	for _, good := range goodLines() {
 		for _, fuel := range []int{0, 5000, impl.MaxFuel} {
 			want := impl.Result{Code: impl.RunFuel}
 			if fuel > 0 {
 				want = impl.Result{Out: "1\n" + strings.Join(append(slices.Clone(good), "2\n"), "\n")}
 			}
-			if r := impl.Run(p, good, fuel); r != want {
+			if r := impl.Run(p, good, fuel); r != want || impl.RunCode(p, good, fuel) != want {
 				t.Errorf("%d lines, fuel %d: %d %.60q", len(good), fuel, r.Code, r.Out)
 			}
 		}
@@ -490,7 +506,7 @@ func checkFull(t *testing.T, s string, ok bool) {
 	t.Helper()
 	p := mustProg(t, "BEGIN { "+s+" }")
 	want := map[bool]int{true: impl.RunOk, false: impl.RunFull}[ok]
-	if r := checkRun(t, p, nil, impl.MaxFuel); r.Code != want {
+	if r := checkRun(t, p, nil, impl.MaxFuel); r.Code != want || impl.RunCode(p, nil, impl.MaxFuel) != r {
 		t.Errorf("%s: %d, not %d", s, r.Code, want)
 	}
 }
@@ -648,21 +664,26 @@ func liven(from *rand.Rand, p []impl.Rule) []impl.Rule {
 	return p
 }
 
+func madeLines(from *rand.Rand) []string {
+	parts := []string{"a", "b", "1", "2", " ", " ", ",", "10", "x"}
+	lines := []string{}
+	for range from.Intn(5) {
+		line := ""
+		for range from.Intn(8) {
+			line += parts[from.Intn(len(parts))]
+		}
+		lines = append(lines, line)
+	}
+	return lines
+}
+
 func TestRunOfMadePrograms(t *testing.T) {
 	t.Parallel()
 	from := rand.New(rand.NewSource(101))
-	parts := []string{"a", "b", "1", "2", " ", " ", ",", "10", "x"}
 	codes := map[int]int{}
 	for _, p := range madePrograms(102, 6000) {
 		p = liven(from, p)
-		lines := []string{}
-		for range from.Intn(5) {
-			line := ""
-			for range from.Intn(8) {
-				line += parts[from.Intn(len(parts))]
-			}
-			lines = append(lines, line)
-		}
+		lines := madeLines(from)
 		for _, fuel := range []int{from.Intn(40), 40 + from.Intn(400), 2000} {
 			codes[checkRun(t, p, lines, fuel).Code]++
 		}
@@ -749,12 +770,33 @@ func TestRunWritesIntoNothing(t *testing.T) {
 	}
 }
 
+// oddPrograms tells what is no program, among that what holds itself and what is
+// far too great.
+func oddPrograms() [][]impl.Rule {
+	held := heldByItself(impl.EOp, "+", 2, 1)
+	return [][]impl.Rule{nil, {{}}, {{When: -1}}, {{When: math.MaxInt, Body: sBlock()}}, inRule(held), {{When: impl.WAll, Body: heldByItself(impl.SBlock, "", 20, 7)}}, inBlock(sExp(doubled(eVar("x"), 60))), inBlock(impl.Node{Kind: -1}), inBlock(impl.Node{Kind: 30}), {{When: impl.WPat, Body: impl.Node{Kind: impl.SBlock}}}, slices.Repeat([]impl.Rule{rAll()}, 100000)}
+}
+
+// oddLines tells lines that are some of a run, and some that are none.
+func oddLines() [][]string {
+	return [][]string{nil, {"a"}, {"\n"}, slices.Repeat([]string{bytesLong(5000)}, 2000)}
+}
+
+// endlessPrograms tells programs that run as long as there is fuel.
+func endlessPrograms(t *testing.T) [][]impl.Rule {
+	t.Helper()
+	list := [][]impl.Rule{}
+	for _, s := range []string{"BEGIN { while (1) n++ }", "BEGIN { while (1) x = substr(x \"abc\", 1, 3000) }", "{ while (1) $60 = $1 x++ }", "BEGIN { while (1) { a[i++ % 300 % 200]; delete a[i % 7]; for (k in a) n++ } }", "{ while (1) { sub(/./, \"&&\", x); x = substr(x \"ab\", 1, 50) } }", "BEGIN { while (1) split(\"a b c d e f\", a) }", "BEGIN { ORS = \"\"; while (1) print \"\" }", "{ while (1) { NF = 60; NF = 0; $0 = \"a b\" } }"} {
+		list = append(list, mustProg(t, s))
+	}
+	return list
+}
+
 // Every function answers at any arguments, and a run ends.
 func TestRunAnswersAtAnything(t *testing.T) {
 	begin := time.Now()
-	held := heldByItself(impl.EOp, "+", 2, 1)
-	for i, p := range [][]impl.Rule{nil, {{}}, {{When: -1}}, {{When: math.MaxInt, Body: sBlock()}}, inRule(held), {{When: impl.WAll, Body: heldByItself(impl.SBlock, "", 20, 7)}}, inBlock(sExp(doubled(eVar("x"), 60))), inBlock(impl.Node{Kind: -1}), inBlock(impl.Node{Kind: 30}), {{When: impl.WPat, Body: impl.Node{Kind: impl.SBlock}}}, slices.Repeat([]impl.Rule{rAll()}, 100000)} {
-		for _, lines := range [][]string{nil, {"a"}, {"\n"}, slices.Repeat([]string{bytesLong(5000)}, 2000)} {
+	for i, p := range oddPrograms() {
+		for _, lines := range oddLines() {
 			for _, fuel := range []int{math.MinInt, -1, 0, 1, 1000, math.MaxInt} {
 				r, trace := impl.Run(p, lines, fuel), impl.Trace(p, lines, fuel)
 				if len(trace) != len(p) || r.Code == impl.RunNone && r.Out != "" || r.Code < 0 || r.Code > 5 {
@@ -763,9 +805,9 @@ func TestRunAnswersAtAnything(t *testing.T) {
 			}
 		}
 	}
-	for _, s := range []string{"BEGIN { while (1) n++ }", "BEGIN { while (1) x = substr(x \"abc\", 1, 3000) }", "{ while (1) $60 = $1 x++ }", "BEGIN { while (1) { a[i++ % 300 % 200]; delete a[i % 7]; for (k in a) n++ } }", "{ while (1) { sub(/./, \"&&\", x); x = substr(x \"ab\", 1, 50) } }", "BEGIN { while (1) split(\"a b c d e f\", a) }", "BEGIN { ORS = \"\"; while (1) print \"\" }", "{ while (1) { NF = 60; NF = 0; $0 = \"a b\" } }"} {
-		if r := impl.Run(mustProg(t, s), []string{"x y"}, impl.MaxFuel); r.Code != impl.RunFuel {
-			t.Errorf("%s: %d", s, r.Code)
+	for i, p := range endlessPrograms(t) {
+		if r := impl.Run(p, []string{"x y"}, impl.MaxFuel); r.Code != impl.RunFuel {
+			t.Error(i, r.Code)
 		}
 	}
 	if time.Since(begin) > time.Minute {
